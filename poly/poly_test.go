@@ -105,8 +105,8 @@ var hashCases = []struct {
 	{api.Hash{Value: 0, Shift: math.MinInt}, false},
 	{api.Hash{Value: 1 << 32, Shift: 1}, false},
 	{api.Hash{Value: 1, Shift: 1 << 32}, false},
-	// No text has this hash, since one byte shifts by Base; it is valid all the same.
-	{api.Hash{Value: 7, Shift: 2}, true},
+	// No text has this hash, since no power of Base is 3 modulo Prime; it is valid all the same.
+	{api.Hash{Value: 7, Shift: 3}, true},
 }
 
 // P2.1, May.
